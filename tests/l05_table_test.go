@@ -352,9 +352,8 @@ func TestNotedAndResizedOfATableThatIsNotRight(t *testing.T) {
 	}
 }
 
-// A row has its number in a table that is not right, too: the document asks for no right one there.
 func TestRowAt(t *testing.T) {
-	for _, x := range append(rightTables(), wrongTables()...) {
+	for _, x := range rightTables() {
 		count := int64(len(x.Rows))
 		for n := int64(1); n <= count; n++ {
 			if row, is := impl.RowAt(x, n); !is || row != x.Rows[n-1] {
@@ -364,6 +363,17 @@ func TestRowAt(t *testing.T) {
 		for _, n := range []int64{0, -1, -count, count + 1, count + 2, 1 << 32, 1<<32 + 1, math.MaxInt64, math.MinInt64, math.MinInt64 + 1} {
 			if row, is := impl.RowAt(x, n); is || row != (impl.Field{}) {
 				t.Errorf("RowAt(%#v, %d): %#v, %v", x, n, row, is)
+			}
+		}
+	}
+}
+
+// Each of the rows is asked for, the right ones too: what is wrong may stand elsewhere.
+func TestRowAtOfATableThatIsNotRight(t *testing.T) {
+	for _, x := range wrongTables() {
+		for n := int64(-1); n <= int64(len(x.Rows))+1; n++ {
+			if row, is := impl.RowAt(x, n); is || row != (impl.Field{}) {
+				t.Fatalf("RowAt(%#v, %d): %#v, %v", x, n, row, is)
 			}
 		}
 	}
@@ -398,7 +408,8 @@ func TestLookup(t *testing.T) {
 		{[]impl.Field{c, b, a}, impl.Field{}, 0, false},
 		{[]impl.Field{c, b, a}, field("", "a"), 0, false},
 		{[]impl.Field{c, b, a}, sized(41, 61), 0, false},
-		{[]impl.Field{c, b, a}, field("to", strings.Repeat("v", 61)), 2, false}, // the Name is there all the same
+		{[]impl.Field{c, b, a}, field("to", strings.Repeat("v", 60)), 2, false},
+		{[]impl.Field{c, b, a}, field("to", strings.Repeat("v", 61)), 0, false}, // the Name is there, but it is no right field
 	} {
 		if n, is := impl.Lookup(table(1000, x.rows...), x.f); n != x.n || is != x.is {
 			t.Errorf("Lookup(%#v, %#v): %d, %v, not %d, %v", x.rows, x.f, n, is, x.n, x.is)
@@ -407,7 +418,7 @@ func TestLookup(t *testing.T) {
 }
 
 func TestLookupOfEachRow(t *testing.T) {
-	for _, x := range append(rightTables(), wrongTables()...) {
+	for _, x := range rightTables() {
 		for _, f := range append(slices.Clone(x.Rows), rightFields()...) {
 			want := int64(slices.Index(x.Rows, f)) + 1
 			there := want > 0
@@ -416,6 +427,30 @@ func TestLookupOfEachRow(t *testing.T) {
 			}
 			if n, is := impl.Lookup(x, f); n != want || is != there {
 				t.Fatalf("Lookup(%#v, %#v): %d, %v, not %d, %v", x, f, n, is, want, there)
+			}
+		}
+	}
+}
+
+// A row alike, and one with the Name alone, are asked for: neither has a number there.
+func TestLookupInATableThatIsNotRight(t *testing.T) {
+	for _, x := range wrongTables() {
+		for _, f := range append(slices.Clone(x.Rows), rightFields()...) {
+			for _, f := range []impl.Field{f, field(f.Name, f.Value+"v"), field(f.Name, "")} {
+				if n, is := impl.Lookup(x, f); n != 0 || is {
+					t.Fatalf("Lookup(%#v, %#v): %d, %v", x, f, n, is)
+				}
+			}
+		}
+	}
+}
+
+func TestLookupOfAFieldThatIsNotRight(t *testing.T) {
+	named := table(1000, append(rightFields(), field("n", "a"))...)
+	for _, x := range append(rightTables(), named) {
+		for _, f := range wrongFields() {
+			if n, is := impl.Lookup(x, f); n != 0 || is {
+				t.Errorf("Lookup(%#v, %#v): %d, %v", x, f, n, is)
 			}
 		}
 	}
