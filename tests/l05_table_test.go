@@ -409,7 +409,10 @@ func TestLookup(t *testing.T) {
 		{[]impl.Field{c, b, a}, field("", "a"), 0, false},
 		{[]impl.Field{c, b, a}, sized(41, 61), 0, false},
 		{[]impl.Field{c, b, a}, field("to", strings.Repeat("v", 60)), 2, false},
-		{[]impl.Field{c, b, a}, field("to", strings.Repeat("v", 61)), 0, false}, // the Name is there, but it is no right field
+		{[]impl.Field{c, b, a}, field("to", strings.Repeat("v", 61)), 2, false}, // no right field, but its Name is there
+		{[]impl.Field{c, b, a}, field("from", strings.Repeat("v", 1000)), 1, false},
+		{[]impl.Field{c, b, a}, field("via", strings.Repeat("v", 61)), 0, false},
+		{[]impl.Field{c, field("to", strings.Repeat("v", 60))}, field("to", strings.Repeat("v", 61)), 2, false}, // its first 60 bytes are not it
 	} {
 		if n, is := impl.Lookup(table(1000, x.rows...), x.f); n != x.n || is != x.is {
 			t.Errorf("Lookup(%#v, %#v): %d, %v, not %d, %v", x.rows, x.f, n, is, x.n, x.is)
@@ -417,16 +420,21 @@ func TestLookup(t *testing.T) {
 	}
 }
 
+// lookedUpAsWritten is the number of which the document tells, and whether the row is alike.
+func lookedUpAsWritten(x impl.Table, f impl.Field) (int64, bool) {
+	if alike := slices.Index(x.Rows, f); alike >= 0 {
+		return int64(alike) + 1, true
+	}
+	named := slices.IndexFunc(x.Rows, func(row impl.Field) bool { return row.Name == f.Name })
+	return int64(named) + 1, false
+}
+
 func TestLookupOfEachRow(t *testing.T) {
 	for _, x := range rightTables() {
 		for _, f := range append(slices.Clone(x.Rows), rightFields()...) {
-			want := int64(slices.Index(x.Rows, f)) + 1
-			there := want > 0
-			if !there {
-				want = int64(slices.IndexFunc(x.Rows, func(row impl.Field) bool { return row.Name == f.Name })) + 1
-			}
-			if n, is := impl.Lookup(x, f); n != want || is != there {
-				t.Fatalf("Lookup(%#v, %#v): %d, %v, not %d, %v", x, f, n, is, want, there)
+			want, alike := lookedUpAsWritten(x, f)
+			if n, is := impl.Lookup(x, f); n != want || is != alike {
+				t.Fatalf("Lookup(%#v, %#v): %d, %v, not %d, %v", x, f, n, is, want, alike)
 			}
 		}
 	}
@@ -445,12 +453,44 @@ func TestLookupInATableThatIsNotRight(t *testing.T) {
 	}
 }
 
+// Of a field that is not right the Name is looked up all the same.
 func TestLookupOfAFieldThatIsNotRight(t *testing.T) {
 	named := table(1000, append(rightFields(), field("n", "a"))...)
 	for _, x := range append(rightTables(), named) {
 		for _, f := range wrongFields() {
-			if n, is := impl.Lookup(x, f); n != 0 || is {
-				t.Errorf("Lookup(%#v, %#v): %d, %v", x, f, n, is)
+			want, _ := lookedUpAsWritten(x, f)
+			if n, is := impl.Lookup(x, f); n != want || is {
+				t.Errorf("Lookup(%#v, %#v): %d, %v, not %d", x, f, n, is, want)
+			}
+		}
+	}
+}
+
+// Each row is asked for by its Name, with a Value that begins as its own and is too long.
+func TestLookupOfAValueThatIsTooLong(t *testing.T) {
+	for _, x := range append(rightTables(), table(21, field(":status", "b.y"))) {
+		for _, row := range x.Rows {
+			for _, more := range []int{61, 62, 200, 256, 1 << 16} {
+				for _, fill := range []string{"\x00", "v"} {
+					f := field(row.Name, row.Value+strings.Repeat(fill, more))
+					want, _ := lookedUpAsWritten(x, f)
+					if n, is := impl.Lookup(x, f); n != want || n < 1 || is {
+						t.Fatalf("Lookup(%#v, %#v and %d bytes): %d, %v, not %d", x, row, more, n, is, want)
+					}
+				}
+			}
+		}
+	}
+}
+
+// A row of a right table has a right Name, so that no other one is found, whatever its Value.
+func TestLookupOfANameThatIsNotRight(t *testing.T) {
+	for _, x := range rightTables() {
+		for _, name := range []string{"", strings.Repeat("n", 41), strings.Repeat("n", 1000)} {
+			for _, value := range []int{0, 1, 60, 61, 200} {
+				if n, is := impl.Lookup(x, field(name, strings.Repeat("v", value))); n != 0 || is {
+					t.Errorf("Lookup(%#v, a Name of %d and a Value of %d bytes): %d, %v", x, len(name), value, n, is)
+				}
 			}
 		}
 	}
