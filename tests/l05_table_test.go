@@ -525,6 +525,17 @@ func (w *watched) stay(t *testing.T) {
 	}
 }
 
+// amidst are the fields, watched, with others ahead of and behind them: a write beside them would
+// be seen in all of them.
+func (w *watched) amidst(fields []impl.Field) (given, all []impl.Field) {
+	all = append(all, w.field(field("ahead", "a")))
+	for _, f := range fields {
+		all = append(all, w.field(f))
+	}
+	all = append(all, w.field(field("behind", "b")), w.field(field("behind", "c")))
+	return all[1 : 1+len(fields)], all
+}
+
 // apart asks that the fields share no memory with what is watched.
 func (w *watched) apart(t *testing.T, fields ...impl.Field) {
 	t.Helper()
@@ -547,18 +558,13 @@ func shareRows(a, b []impl.Field) bool {
 	return meet([2]uintptr{from, from + uintptr(cap(a))*size}, [2]uintptr{other, other + uintptr(cap(b))*size})
 }
 
-// Spare rows stand ahead of and behind those of the table: a write beside them would be seen.
 func TestTableArgumentsStayAndAnswersAreNewMemory(t *testing.T) {
 	fields := append(rightFields()[:7], wrongFields()[:9]...)
 	for _, x := range append(rightTables(), wrongTables()[:30]...) {
 		for _, f := range fields {
 			var w watched
-			all := []impl.Field{w.field(field("ahead", "a"))}
-			for _, row := range x.Rows {
-				all = append(all, w.field(row))
-			}
-			all = append(all, w.field(field("behind", "b")), w.field(field("behind", "c")))
-			given := impl.Table{Room: x.Room, Rows: all[1 : 1+len(x.Rows)]}
+			rows, all := w.amidst(x.Rows)
+			given := table(x.Room, rows...)
 			held := slices.Clone(all)
 			asked := w.field(f)
 
