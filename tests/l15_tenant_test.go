@@ -715,7 +715,8 @@ type watchedTenants struct {
 	lists [][]string
 }
 
-func (w *watchedTenants) text(text string) string {
+// text lies over a buffer of its own, too.
+func (w *watched) text(text string) string {
 	s, buffer := overBuffer(text)
 	w.buffers = append(w.buffers, buffer)
 	w.texts = append(w.texts, strings.Clone(text))
@@ -748,7 +749,7 @@ func (w *watchedTenants) stays(t *testing.T, list []impl.Tenant) {
 }
 
 // apartFrom asks that no text lies in the memory of what is watched.
-func (w *watchedTenants) apartFrom(t *testing.T, texts ...string) {
+func (w *watched) apartFrom(t *testing.T, texts ...string) {
 	t.Helper()
 	for _, text := range texts {
 		for _, buffer := range w.buffers {
