@@ -106,7 +106,9 @@ func dryAsWritten(p impl.Pipe) bool {
 	return pipeAsWritten(p) && len(p.Bytes) == 0 && (p.Ended || p.Broken)
 }
 
-func overAsWritten(x impl.Tunnel) bool { return dryAsWritten(x.Up) && dryAsWritten(x.Down) }
+func overAsWritten(x impl.Tunnel) bool {
+	return tunnelAsWritten(x) && dryAsWritten(x.Up) && dryAsWritten(x.Down)
+}
 
 // copiedTunnel holds the bytes apart, so that a write into the argument is seen.
 func copiedTunnel(x impl.Tunnel) impl.Tunnel {
@@ -574,7 +576,8 @@ func TestOver(t *testing.T) {
 	}
 }
 
-// A pipe that is not right is not Dry. Of Went and Came the chapter asks nothing there.
+// One fixed answer for each tunnel that misses what the chapter wants, by a pipe or by a count, whatever
+// lies in its pipes: it is not Over.
 func TestOverOfWhatIsNotRight(t *testing.T) {
 	dry := endedPipe(4, "")
 	for _, wrong := range wrongPipes() {
@@ -583,11 +586,30 @@ func TestOverOfWhatIsNotRight(t *testing.T) {
 		isOver(t, tunnel(wrong, wrong, 3, 4), false)
 	}
 	isOver(t, impl.Tunnel{}, false)
-	for _, n := range wrongCounts() {
-		isOver(t, tunnel(dry, brokenPipe(4, false), n, 4), true)
-		isOver(t, tunnel(dry, brokenPipe(4, false), 3, n), true)
-		isOver(t, tunnel(dry, pipe(4, ""), n, 4), false)
-		isOver(t, tunnel(endedPipe(4, "a"), dry, 3, n), false)
+	for _, x := range wrongTunnels() {
+		isOver(t, x, false)
+	}
+}
+
+// Where both pipes are Dry it hangs on Went and Came alone, each of which is right up to its edges.
+func TestOverOfDryPipesHangsOnTheCounts(t *testing.T) {
+	dry := []impl.Pipe{endedPipe(4, ""), brokenPipe(4, false), brokenPipe(4, true)}
+	right := []int64{0, 1, lastTime - 1, lastTime}
+	for _, up := range dry {
+		for _, down := range dry {
+			for _, n := range right {
+				for _, m := range right {
+					isOver(t, tunnel(up, down, n, m), true)
+				}
+				for _, wrong := range wrongCounts() {
+					isOver(t, tunnel(up, down, wrong, n), false)
+					isOver(t, tunnel(up, down, n, wrong), false)
+				}
+			}
+			for _, wrong := range wrongCounts() {
+				isOver(t, tunnel(up, down, wrong, wrong), false)
+			}
+		}
 	}
 }
 
