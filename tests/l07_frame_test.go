@@ -414,53 +414,61 @@ func TestFramesOfAWrongBody(t *testing.T) {
 	}
 }
 
+// nearlyFrames are some of the right ones, often with other bytes amid them or behind them.
+func (s *source) nearlyFrames(right []impl.Frame) string {
+	text := ""
+	for range s.next(4) {
+		text += laidOut(right[s.next(uint32(len(right)))])
+	}
+	made := []byte(text)
+	for range s.next(3) {
+		if len(made) > 0 {
+			made[s.next(uint32(len(made)))] = byte(s.next(256))
+		}
+	}
+	for range s.next(9) {
+		made = append(made, byte(s.next(9)))
+	}
+	return string(made)
+}
+
 // Whatever the bytes are, what is told of them is all of them, and right.
 func TestFramesOfAnyBytes(t *testing.T) {
 	src := source{seed: 7}
 	right := someFrames()
 	for range 20000 {
-		s := ""
-		for range src.next(4) {
-			s += laidOut(right[src.next(uint32(len(right)))])
-		}
-		made := []byte(s)
-		for range src.next(3) {
-			if len(made) > 0 {
-				made[src.next(uint32(len(made)))] = byte(src.next(256))
-			}
-		}
-		for range src.next(9) {
-			made = append(made, byte(src.next(9)))
-		}
-		areFramesAsRead(t, string(made))
+		areFramesAsRead(t, src.nearlyFrames(right))
 	}
 	for _, s := range []string{allBytes(), strings.Repeat("\x00", 100000), strings.Repeat("\xff", 100000), strings.Repeat("\x00\x00\x04\x00\x00\x00\x00", 5000)} {
 		areFramesAsRead(t, s)
 	}
 }
 
-func areFramesAsRead(t *testing.T, s string) {
-	t.Helper()
-	var want []impl.Frame
-	left, right := s, true
+// framesAsRead reads them by the tests' own rules.
+func framesAsRead(s string) (list []impl.Frame, left string, right bool) {
+	left = s
 	for len(left) >= 7 {
 		size := int(left[0])<<8 + int(left[1])
 		f := frame(int64(left[2]), int64(left[3]), int64(left[4])<<16+int64(left[5])<<8+int64(left[6]), "")
 		if !headAsWritten(size, f.Kind, f.Flags, f.Stream) {
-			right = false
-			break
+			return list, left, false
 		}
 		if len(left) < 7+size {
 			break
 		}
 		f.Body = left[7 : 7+size]
 		if !frameAsWritten(f) {
-			right = false
-			break
+			return list, left, false
 		}
-		want, left = append(want, f), left[7+size:]
+		list, left = append(list, f), left[7+size:]
 	}
-	areFrames(t, s, want, left, right)
+	return list, left, true
+}
+
+func areFramesAsRead(t *testing.T, s string) {
+	t.Helper()
+	list, left, right := framesAsRead(s)
+	areFrames(t, s, list, left, right)
 }
 
 func TestNumber(t *testing.T) {
